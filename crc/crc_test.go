@@ -291,7 +291,7 @@ func TestR4CallsAtOneTime(t *testing.T) {
 	all.Wait()
 }
 
-// Each call may be the first one, which makes the table: every test here is run in a process of its own.
+// Each call may be the first one, with the table made or not: every test here is run in a process of its own.
 func TestR4AnyCallFirst(t *testing.T) {
 	for _, name := range []string{"TestP21Of", "TestP21MoreOfAnySum", "TestP21Words", "TestR4CallsAtOneTime"} {
 		out, err := exec.Command(os.Args[0], "-test.run=^"+name+"$").CombinedOutput()
