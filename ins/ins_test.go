@@ -649,7 +649,7 @@ func TestR4CallsAtOneTime(t *testing.T) {
 	}
 }
 
-// Each call may be the first one, which makes the table: every test here is run in a process of its own.
+// Each call may be the first one, whether it makes the table or not: every test here is run in a process of its own.
 func TestR4AnyCallFirst(t *testing.T) {
 	for _, name := range []string{"TestP81WrittenOut", "TestP82ImmBeyond", "TestP82NoOp", "TestP83Names", "TestP83Kinds", "TestR4CallsAtOneTime"} {
 		out, err := exec.Command(os.Args[0], "-test.run=^"+name+"$").CombinedOutput()
